@@ -51,7 +51,6 @@ func TestP1Long(t *testing.T) {
 	})
 }
 
-// The machine's calls are not built yet; what they must do already is end.
 func TestP1CallsEnd(t *testing.T) {
 	numbers := []int{math.MinInt, -1, 0, 1, 9, 10, 60, 61, math.MaxInt}
 	for _, text := range []string{"", "|", "X00", "J00", "k", "\xff\x00", strings.Repeat("X00", 1000)} {

@@ -16,35 +16,77 @@ const (
 	ErrRange Errno = 8 // a quantum or a time that may not be
 )
 
-// Check tells whether a program can go wrong (P3 to P5).
-func Check(text string) (Errno, int) {
+// checked makes a program's codes out of a text, or tells its error.
+func checked(text string) ([]code, Errno, int) {
 	codes, refused, place := read(text)
 	if refused != OK {
-		return refused, place
+		return nil, refused, place
 	}
 	for _, c := range codes {
 		wrong, number := codeError(c.list)
 		if wrong != OK {
-			return wrong, c.placeInText(number)
+			return nil, wrong, c.placeInText(number)
 		}
 	}
-	return OK, 0
+	return codes, OK, 0
+}
+
+// Check tells whether a program can go wrong (P3 to P5).
+func Check(text string) (Errno, int) {
+	_, wrong, place := checked(text)
+	return wrong, place
 }
 
 // Out tells what was printed (P6 to P9).
-func Out(text string, quantum int, n int) (string, Errno, int) { return "", 0, 0 }
+func Out(text string, quantum int, n int) (string, Errno, int) {
+	m, refused, place := run(text, quantum, n)
+	return string(m.printed), refused, place
+}
 
 // Trace tells who had which quantum.
-func Trace(text string, quantum int, n int) (string, Errno, int) { return "", 0, 0 }
+func Trace(text string, quantum int, n int) (string, Errno, int) {
+	m, refused, place := run(text, quantum, n)
+	return string(m.trace), refused, place
+}
 
 // Cells tells the cells.
-func Cells(text string, quantum int, n int) ([]int, Errno, int) { return nil, 0, 0 }
+func Cells(text string, quantum int, n int) ([]int, Errno, int) {
+	m, refused, place := run(text, quantum, n)
+	list := []int{}
+	if refused != OK {
+		return list, refused, place
+	}
+	for _, value := range m.cells {
+		list = append(list, value)
+	}
+	return list, OK, 0
+}
 
 // States tells the threads' states.
-func States(text string, quantum int, n int) (string, Errno, int) { return "", 0, 0 }
+func States(text string, quantum int, n int) (string, Errno, int) {
+	m, refused, place := run(text, quantum, n)
+	letters := []byte{}
+	for _, t := range m.threads {
+		letters = append(letters, t.state)
+	}
+	return string(letters), refused, place
+}
 
 // Owners tells who owns the locks.
-func Owners(text string, quantum int, n int) (string, Errno, int) { return "", 0, 0 }
+func Owners(text string, quantum int, n int) (string, Errno, int) {
+	m, refused, place := run(text, quantum, n)
+	if refused != OK {
+		return "", refused, place
+	}
+	names := []byte{}
+	for _, l := range m.locks {
+		names = append(names, nameOf(l.owner))
+	}
+	return string(names), OK, 0
+}
 
-// Log tells the deadlocks (P10).
-func Log(text string, quantum int, n int) (string, Errno, int) { return "", 0, 0 }
+// Log will tell the deadlocks (P10); so far it has the errors alone (P6).
+func Log(text string, quantum int, n int) (string, Errno, int) {
+	_, refused, place := prepare(text, quantum, n)
+	return "", refused, place
+}
