@@ -85,8 +85,8 @@ func Owners(text string, quantum int, n int) (string, Errno, int) {
 	return string(names), OK, 0
 }
 
-// Log will tell the deadlocks (P10); so far it has the errors alone (P6).
+// Log tells the deadlocks, and since when there are any (P10).
 func Log(text string, quantum int, n int) (string, Errno, int) {
-	_, refused, place := prepare(text, quantum, n)
-	return "", refused, place
+	m, refused, place := run(text, quantum, n)
+	return string(m.log), refused, place
 }

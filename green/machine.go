@@ -26,6 +26,7 @@ type machine struct {
 	queue   line
 	printed []byte
 	trace   []byte
+	log     []byte
 }
 
 func (l *line) join(number int) {
@@ -79,6 +80,15 @@ func (m *machine) print(value int) {
 	m.printed = append(m.printed, byte('0'+value%10))
 }
 
+func (m *machine) block(number int, name int) {
+	if number < 0 || number >= len(m.threads) || name < 0 || name >= lockCount {
+		return
+	}
+	m.locks[name].blocked.join(number)
+	m.threads[number].state = blocked
+	m.threads[number].blockedAt = name
+}
+
 func (m *machine) ask(number int, name int) {
 	if name < 0 || name >= lockCount {
 		return
@@ -87,8 +97,7 @@ func (m *machine) ask(number int, name int) {
 		m.locks[name].owner = number
 		return
 	}
-	m.locks[name].blocked.join(number)
-	m.setState(number, blocked)
+	m.block(number, name)
 }
 
 // giveBack leaves the next instruction of the thread that gets the lock alone:
@@ -120,11 +129,9 @@ func (m *machine) wakeWaiting(name int) {
 		return
 	}
 	woken := m.locks[name].waiting.leave()
-	if woken == nobody {
-		return
+	if woken != nobody {
+		m.block(woken, name)
 	}
-	m.locks[name].blocked.join(woken)
-	m.setState(woken, blocked)
 }
 
 func (m *machine) load(cell int) int {
@@ -213,6 +220,7 @@ func (m *machine) quantum(now int, most int) {
 	if stays {
 		m.queue.join(number)
 	}
+	m.logDeadlock(number, now)
 }
 
 // prepare makes a program's codes out of a machine's arguments, or tells why

@@ -2,6 +2,7 @@ package green_test
 
 import (
 	"fmt"
+	"slices"
 	"strings"
 	"testing"
 
@@ -29,6 +30,7 @@ type modelMachine struct {
 	tick    int
 	out     string
 	trace   string
+	log     string
 }
 
 func (m *modelMachine) put(number int, state byte, lock int) {
@@ -152,6 +154,51 @@ func (m *modelMachine) states() string {
 	return out
 }
 
+// blockedBy tells whether a thread is blocked at a lock that another one owns.
+func (m *modelMachine) blockedBy(number int, other int) bool {
+	t := m.threads[number]
+	return t.state == 'B' && m.owners[t.lock] == byte('0'+other)
+}
+
+// deadlocks tries every row of different threads, and keeps the rows that are
+// rings, each once: rising.
+func (m *modelMachine) deadlocks(row []int) []string {
+	found := []string{}
+	if len(row) > 0 && m.blockedBy(row[len(row)-1], row[0]) {
+		names := []byte{}
+		for _, number := range row {
+			names = append(names, byte('0'+number))
+		}
+		slices.Sort(names)
+		found = append(found, string(names))
+	}
+	for i := range m.threads {
+		if !slices.Contains(row, i) && (len(row) == 0 || m.blockedBy(row[len(row)-1], i)) {
+			found = append(found, m.deadlocks(append(slices.Clone(row), i))...)
+		}
+	}
+	slices.Sort(found)
+	return slices.Compact(found)
+}
+
+// note logs the deadlocks that were not there behind the quantum before, and
+// holds it against the document if one is gone, or if there are two new ones.
+func (m *modelMachine) note(t *testing.T, q int, before []string) []string {
+	t.Helper()
+	now := m.deadlocks(nil)
+	fresh := 0
+	for _, threads := range now {
+		if !slices.Contains(before, threads) {
+			m.log += fmt.Sprintf("%02d:%s ", q, threads)
+			fresh++
+		}
+	}
+	if fresh > 1 || len(now) != len(before)+fresh {
+		t.Errorf("P10: behind quantum %d deadlocks %v, before %v", q, now, before)
+	}
+	return now
+}
+
 func modelStart(text string) *modelMachine {
 	m := &modelMachine{owners: "----"}
 	for i, part := range strings.Split(text, "|") {
@@ -272,22 +319,41 @@ func (d *dice) goodProgram() string {
 	}
 }
 
-// compareRun follows the second machine through n quanta and notes what
-// states it came to.
-func compareRun(t *testing.T, text string, quantum int, n int, seen map[byte]int) {
+func compareLog(t *testing.T, text string, quantum int, n int, want string) {
+	t.Helper()
+	log, wrong, place := green.Log(text, quantum, n)
+	if log != want || wrong != green.OK || place != 0 {
+		t.Fatalf("P10: Log(%q, %d, %d) = %q %d %d, want %q", text, quantum, n, log, wrong, place, want)
+	}
+}
+
+// compareRun follows the second machine through n quanta, notes what states
+// it came to, and answers its log.
+func compareRun(t *testing.T, text string, quantum int, n int, seen map[byte]int) string {
 	t.Helper()
 	m := modelStart(text)
-	for q := 0; q <= n; q++ {
+	deadlocks := []string{}
+	before := ""
+	for q := 0; ; q++ {
 		want := fmt.Sprintf("out %q trace %q states %q owners %q cells %v", m.out, m.trace, m.states(), m.owners, m.cells)
 		if q%13 == 0 || q == n {
 			if got := tellRun(t, text, quantum, q); got != want {
 				t.Fatalf("%q, %d, %d:\ngot  %s\nwant %s", text, quantum, q, got, want)
 			}
 		}
+		if q%13 == 0 || q == n || m.log != before {
+			compareLog(t, text, quantum, max(q-1, 0), before)
+			compareLog(t, text, quantum, q, m.log)
+		}
+		before = m.log
 		for _, state := range []byte(m.states()) {
 			seen[state]++
 		}
+		if q == n {
+			return m.log
+		}
 		m.quantum(q, quantum)
+		deadlocks = m.note(t, q, deadlocks)
 	}
 }
 

@@ -13,12 +13,13 @@ const (
 )
 
 type thread struct {
-	list   []instruction
-	next   int // the number of the instruction that it makes next
-	stack  [maxHeight]int
-	height int
-	state  byte
-	wakeAt int // the quantum that its sleep ends with
+	list      []instruction
+	next      int // the number of the instruction that it makes next
+	stack     [maxHeight]int
+	height    int
+	state     byte
+	wakeAt    int // the quantum that its sleep ends with
+	blockedAt int // the lock that it is blocked at, if it is blocked
 }
 
 // current ends a thread that has left its code rather than index outside of
